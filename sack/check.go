@@ -1,6 +1,9 @@
 package sack
 
-import "pencilworks/api"
+import (
+	"pencilworks/api"
+	"pencilworks/bound"
+)
 
 // valid tells whether sacks are valid, and a batch out of them.
 func valid(l []api.Sack, b []api.Take) bool {
@@ -8,7 +11,7 @@ func valid(l []api.Sack, b []api.Take) bool {
 		return false
 	}
 	for _, t := range b {
-		if !isIndex(l, t.Sack) || !within(t.Weight, 1, api.MaxTake) {
+		if !isIndex(l, t.Sack) || !bound.Within(t.Weight, 1, api.MaxTake) {
 			return false
 		}
 	}
@@ -20,16 +23,11 @@ func validSacks(l []api.Sack) bool {
 		return false
 	}
 	for _, s := range l {
-		if !within(s.Water, 0, api.MaxWet) || !within(s.Carbon, 0, api.MaxThou) || !within(s.Loss, 0, api.MaxWet) {
+		if !bound.Within(s.Water, 0, api.MaxWet) || !bound.Within(s.Carbon, 0, api.MaxThou) || !bound.Within(s.Loss, 0, api.MaxWet) {
 			return false
 		}
 	}
 	return true
-}
-
-// within tells whether a span is valid, and contains only numbers between two bounds.
-func within(s api.Span, least, most int) bool {
-	return least <= s.Lo && s.Lo <= s.Hi && s.Hi <= most
 }
 
 func isIndex(l []api.Sack, i int) bool {

@@ -5,6 +5,7 @@ import (
 	"sort"
 
 	"pencilworks/api"
+	"pencilworks/bound"
 )
 
 // Weigh returns the spans of the water, the carbon, the smoke, the clay and the lead of a batch.
@@ -37,13 +38,13 @@ func Water(l []api.Sack, b []api.Take, want api.Span) (api.Span, api.Errno) {
 	if !valid(l, b) {
 		return api.Span{}, api.ErrArg
 	}
-	if !within(want, 0, api.MaxThou-1) {
+	if !bound.Within(want, 0, api.MaxThou-1) {
 		return api.Span{}, api.ErrRange
 	}
 	adders := whatAdds(gather(l, b))
 	// A gram of water that is added counts for the water and for the whole: it makes up for 1000 less what is wanted.
-	atLeast := up(together(adders, waterLack(want.Lo)).most, int64(api.MaxThou-want.Lo))
-	atMost := down(together(adders, waterLack(want.Hi)).least, int64(api.MaxThou-want.Hi))
+	atLeast := bound.Up(together(adders, waterLack(want.Lo)).most, int64(api.MaxThou-want.Lo))
+	atMost := bound.Down(together(adders, waterLack(want.Hi)).least, int64(api.MaxThou-want.Hi))
 	return numbers(max(atLeast, 0), min(atMost, api.MaxGrams))
 }
 
@@ -55,7 +56,7 @@ func Mix(l []api.Sack, first, second, total int, want api.Span) (api.Span, api.E
 	if !isIndex(l, first) || !isIndex(l, second) || first == second {
 		return api.Span{}, api.ErrRange
 	}
-	if total < 2 || total > api.MaxTake || !within(want, 0, api.MaxThou) {
+	if total < 2 || total > api.MaxTake || !bound.Within(want, 0, api.MaxThou) {
 		return api.Span{}, api.ErrRange
 	}
 	one, other := gramOf(l[first]).adds, gramOf(l[second]).adds

@@ -264,15 +264,6 @@ func TestArgumentsStay(t *testing.T) {
 	}
 }
 
-// R5: what is below 0 is rounded toward the lesser number, or toward the greater one.
-func TestRounding(t *testing.T) {
-	for _, c := range [][4]int{{7, 2, 3, 4}, {-7, 2, -4, -3}, {6, 2, 3, 3}, {-6, 2, -3, -3}, {0, 5, 0, 0}, {1, 5, 0, 1}, {-1, 5, -1, 0}} {
-		if down(c[0], c[1]) != c[2] || up(c[0], c[1]) != c[3] {
-			t.Errorf("%d / %d is rounded to %d and %d", c[0], c[1], down(c[0], c[1]), up(c[0], c[1]))
-		}
-	}
-}
-
 // A caller that has seen enough corners may leave.
 func TestCornersCanBeLeft(t *testing.T) {
 	seen := 0

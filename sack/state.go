@@ -5,6 +5,7 @@ import (
 	"math"
 
 	"pencilworks/api"
+	"pencilworks/bound"
 )
 
 // unit is a gram, in the parts in which a state counts. The heaviest batch has less than 2^50 of them, and less than 2^60 thousandths of them, so that nothing overflows.
@@ -47,7 +48,7 @@ type reach struct{ least, most int64 }
 
 // grams returns the span of what was counted in units.
 func (r reach) grams() api.Span {
-	return api.Span{Lo: int(down(r.least, unit)), Hi: int(up(r.most, unit))}
+	return api.Span{Lo: int(bound.Down(r.least, unit)), Hi: int(bound.Up(r.most, unit))}
 }
 
 // held is what is known of all that is taken out of a sack.
@@ -134,9 +135,9 @@ func notBelow(total, one, other int64) reach {
 	each, lack := one-other, -total*other
 	switch {
 	case each > 0:
-		return reach{least: up(lack, each), most: total}
+		return reach{least: bound.Up(lack, each), most: total}
 	case each < 0:
-		return reach{least: 0, most: down(-lack, -each)}
+		return reach{least: 0, most: bound.Down(-lack, -each)}
 	case lack > 0:
 		return reach{least: total, most: 0}
 	}
