@@ -1,4 +1,4 @@
-// Package bound serves all layers: spans that are checked, and fractions that are rounded.
+// Package bound serves all layers: numbers and spans that are checked, and fractions that are rounded.
 package bound
 
 import "pencilworks/api"
@@ -6,6 +6,11 @@ import "pencilworks/api"
 // Within tells whether a span is valid, and contains only numbers between two bounds.
 func Within(s api.Span, least, most int) bool {
 	return least <= s.Lo && s.Lo <= s.Hi && s.Hi <= most
+}
+
+// IsFrom tells whether a number is from one to another one.
+func IsFrom(n, least, most int) bool {
+	return least <= n && n <= most
 }
 
 // whole is what can be rounded.

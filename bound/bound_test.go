@@ -30,6 +30,18 @@ func TestWithin(t *testing.T) {
 	}
 }
 
+// R5: a number may be at either end.
+func TestIsFrom(t *testing.T) {
+	for n, want := range map[int]bool{math.MinInt: false, -3: false, -2: true, 0: true, 5: true, 6: false, math.MaxInt: false} {
+		if got := IsFrom(n, -2, 5); got != want {
+			t.Errorf("%d is from -2 to 5: %t", n, got)
+		}
+	}
+	if IsFrom(0, 0, -1) || !IsFrom(7, 7, 7) {
+		t.Error("what has no numbers has one, or what has one has none")
+	}
+}
+
 // R5: what is below 0 is rounded toward the lesser number, or toward the greater one.
 func TestRounding(t *testing.T) {
 	for _, c := range [][4]int{{7, 2, 3, 4}, {-7, 2, -4, -3}, {6, 2, 3, 3}, {-6, 2, -3, -3}, {0, 5, 0, 0}, {1, 5, 0, 1}, {-1, 5, -1, 0}} {
